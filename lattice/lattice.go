@@ -1,0 +1,69 @@
+// Package lattice: sublattices of whole-number vectors, and nodes that keep one: see DOC.md.
+package lattice
+
+import (
+	"lattice/api"
+	"lattice/span"
+)
+
+// Basis tells the canonical basis of what vectors generate (P3).
+func Basis(n int, rows [][]int) ([][]int, api.Errno) {
+	s, e := generated(n, rows)
+	if e != api.OK {
+		return nil, e
+	}
+	return s.Rows(n), api.OK
+}
+
+// Has tells whether a vector is in what vectors generate (P4).
+func Has(n int, rows [][]int, v []int) (bool, api.Errno) {
+	if !isWidth(n) {
+		return false, api.ErrWidth
+	}
+	// Ahead of the lattice, since ErrVector is named ahead of ErrBound.
+	if !isVector(n, v) {
+		return false, api.ErrVector
+	}
+	s, e := generated(n, rows)
+	if e != api.OK {
+		return false, e
+	}
+	w := span.VectorOf(v)
+	return s.Has(w), api.OK
+}
+
+// Index tells how many cosets there are (P5).
+func Index(n int, rows [][]int) (int, api.Errno) {
+	s, e := generated(n, rows)
+	if e != api.OK {
+		return 0, e
+	}
+	return s.Index(n), api.OK
+}
+
+// Encode writes the text of what vectors generate (P6).
+func Encode(n int, rows [][]int) (string, api.Errno) { return "", api.OK }
+
+// Decode reads a text (P7).
+func Decode(s string) (int, [][]int, api.Errno) { return 0, nil, api.OK }
+
+// Join makes the sum of two lattices (P8).
+func Join(s string, t string) (string, api.Errno) { return "", api.OK }
+
+// Within tells whether one lattice lies in another (P8).
+func Within(s string, t string) (bool, api.Errno) { return false, api.OK }
+
+// Node keeps a lattice on a disk.
+type Node struct{}
+
+// Open begins a node over a disk (P9, P12).
+func Open(n int, disk []string) (*Node, []api.Write, api.Errno) { return nil, nil, api.OK }
+
+// Show tells the text of the node's lattice (P9).
+func (x *Node) Show() string { return "" }
+
+// Add adds a vector (P10).
+func (x *Node) Add(v []int) ([]api.Write, api.Errno) { return nil, api.OK }
+
+// Receive takes in what another node showed (P11).
+func (x *Node) Receive(s string) ([]api.Write, api.Errno) { return nil, api.OK }
