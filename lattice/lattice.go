@@ -4,6 +4,7 @@ package lattice
 import (
 	"lattice/api"
 	"lattice/span"
+	"lattice/text"
 )
 
 // Basis tells the canonical basis of what vectors generate (P3).
@@ -42,16 +43,44 @@ func Index(n int, rows [][]int) (int, api.Errno) {
 }
 
 // Encode writes the text of what vectors generate (P6).
-func Encode(n int, rows [][]int) (string, api.Errno) { return "", api.OK }
+func Encode(n int, rows [][]int) (string, api.Errno) {
+	s, e := generated(n, rows)
+	if e != api.OK {
+		return "", e
+	}
+	return text.Of(n, s), api.OK
+}
 
 // Decode reads a text (P7).
-func Decode(s string) (int, [][]int, api.Errno) { return 0, nil, api.OK }
+func Decode(s string) (int, [][]int, api.Errno) {
+	n, read, ok := text.Read(s)
+	if !ok {
+		return 0, nil, api.ErrText
+	}
+	return n, read.Rows(n), api.OK
+}
 
 // Join makes the sum of two lattices (P8).
-func Join(s string, t string) (string, api.Errno) { return "", api.OK }
+func Join(s string, t string) (string, api.Errno) {
+	p, e := readPair(s, t)
+	if e != api.OK {
+		return "", e
+	}
+	sum := p.first.Join(p.second)
+	if !sum.Fits() {
+		return "", api.ErrBound
+	}
+	return text.Of(p.width, sum), api.OK
+}
 
 // Within tells whether one lattice lies in another (P8).
-func Within(s string, t string) (bool, api.Errno) { return false, api.OK }
+func Within(s string, t string) (bool, api.Errno) {
+	p, e := readPair(s, t)
+	if e != api.OK {
+		return false, e
+	}
+	return p.first.Within(p.second), api.OK
+}
 
 // Node keeps a lattice on a disk.
 type Node struct{}

@@ -64,6 +64,7 @@ func TestP2NothingHandedInIsWrittenInto(t *testing.T) {
 		lattice.Basis(c.n, rows)
 		lattice.Has(c.n, rows, v)
 		lattice.Index(c.n, rows)
+		lattice.Encode(c.n, rows)
 		if !same(whole(rows), rowsAhead) {
 			t.Errorf("P2: %v has become %v", rowsAhead, whole(rows))
 		}
@@ -113,18 +114,87 @@ func TestP2WhatComesOutIsTheCallers(t *testing.T) {
 func TestP2NoTwoRowsShare(t *testing.T) {
 	for _, c := range owned {
 		b, _ := lattice.Basis(c.n, c.rows)
-		lists := append(table{}, b...)
-		for i, r := range lists {
-			for j := range r[:cap(r)] {
-				r[:cap(r)][j] = 1000*i + j
+		if anyShare(b) {
+			t.Errorf("P2: two rows of Basis(%d, %v) share their room", c.n, c.rows)
+		}
+	}
+	for _, c := range texts {
+		_, b, _ := lattice.Decode(c.s)
+		_, other, _ := lattice.Decode(c.s)
+		lists := append(append(table{}, b...), other...)
+		if anyShare(lists) {
+			t.Errorf("P2: two rows of Decode(%q) share their room", c.s)
+		}
+	}
+}
+
+// anyShare tells whether what is written into one list is seen in another.
+func anyShare(lists table) bool {
+	for i, r := range lists {
+		for j := range r[:cap(r)] {
+			r[:cap(r)][j] = 1000*i + j
+		}
+	}
+	for i, r := range lists {
+		for j, x := range r[:cap(r)] {
+			if x != 1000*i+j {
+				return true
 			}
 		}
-		for i, r := range lists {
-			for j, x := range r[:cap(r)] {
-				if x != 1000*i+j {
-					t.Errorf("P2: two rows of Basis(%d, %v) share their room", c.n, c.rows)
-				}
-			}
+	}
+	return false
+}
+
+// What Encode told hangs on the rows no longer, once it is told.
+func TestP2EncodeKeepsNothing(t *testing.T) {
+	for _, c := range owned {
+		rows := roomy(c.rows)
+		s, e := lattice.Encode(c.n, rows)
+		ahead := string(append([]byte{}, s...))
+		scribble(rows)
+		again, f := lattice.Encode(c.n, c.rows)
+		if s != ahead || again != ahead || f != e {
+			t.Errorf("P2: Encode(%d, %v) = %q, %d; later it is %q, and %q, %d", c.n, c.rows, ahead, e, s, again, f)
+		}
+	}
+}
+
+func TestP2WhatDecodeTellsIsTheCallers(t *testing.T) {
+	for _, c := range texts {
+		s := string([]byte(c.s))
+		_, b, _ := lattice.Decode(s)
+		_, other, _ := lattice.Decode(s)
+		scribble(b)
+		if !same(other, c.basis) {
+			t.Errorf("P2: one answer was written into, and the other is %v, not %v", other, c.basis)
+		}
+		if _, again, e := lattice.Decode(s); s != c.s || e != api.OK || !same(again, c.basis) {
+			t.Errorf("P2: the answer was written into, and Decode(%q) = %v, %d, not %v", s, again, e, c.basis)
+		}
+	}
+}
+
+// P2: nothing of the texts that were joined ahead is left in a later answer.
+func TestP2TextsHangOnArgumentsAlone(t *testing.T) {
+	type answer struct {
+		s    string
+		y    bool
+		e, f api.Errno
+	}
+	ask := func(i int) answer {
+		c := texts[i/len(texts)]
+		o := texts[i%len(texts)]
+		s, e := lattice.Join(c.s, o.s)
+		y, f := lattice.Within(c.s, o.s)
+		return answer{s, y, e, f}
+	}
+	var first []answer
+	for i := 0; i < len(texts)*len(texts); i++ {
+		first = append(first, ask(i))
+	}
+	for i := len(first) - 1; i >= 0; i-- {
+		if a := ask(i); a != first[i] {
+			t.Errorf("P2: of %q and %q it is %v, and was %v", texts[i/len(texts)].s, texts[i%len(texts)].s, a, first[i])
 		}
 	}
 }

@@ -1,6 +1,7 @@
 package lattice_test
 
 import (
+	"strings"
 	"testing"
 
 	"lattice/api"
@@ -43,6 +44,10 @@ func TestP1AnyInput(t *testing.T) {
 			if f != e || e != api.OK && m != 0 {
 				t.Errorf("P5: Index(%d, ...) = %d, %d, where Basis has error %d", n, m, f, e)
 			}
+			s, g := lattice.Encode(n, rows)
+			if g != e || (s == "") != (e != api.OK) {
+				t.Errorf("P6: Encode(%d, ...) = %q, %d, where Basis has error %d", n, s, g, e)
+			}
 			for _, v := range vectors {
 				y, g := lattice.Has(n, rows, v)
 				if g != api.OK && y {
@@ -51,6 +56,48 @@ func TestP1AnyInput(t *testing.T) {
 				if g != hasError(n, v, e) {
 					t.Errorf("P4: Has(%d, ..., %d entries) has error %d, where Basis has %d", n, len(v), g, e)
 				}
+			}
+		}
+	}
+}
+
+// wildTexts have no bound on their length, and bytes of every kind.
+func wildTexts() []string {
+	all := []string{
+		"", strings.Repeat("\x00", 100000), strings.Repeat("\x01", 100000), strings.Repeat("\x02", 100000), strings.Repeat("\x03", 100000), strings.Repeat("\xff", 1<<20),
+		"\x03\x03" + strings.Repeat("\xff", 19), "\x03\x03" + strings.Repeat("\x00", 19), "\x01\x01\x80\x00\x00", "\x02\x02\x00\x00\xff\xff\x80\x00\x7f\xff\x00",
+		"\x02\x00\x09" + strings.Repeat("\x00", 1<<20), "\xe2\x82\xac", "\xc3\x28",
+	}
+	d := &dice{11}
+	for i := 0; i < 300; i++ {
+		n, count := d.below(6), d.below(6)
+		bytes := []byte{byte(n), byte(count)}
+		for k := 2*n*count + d.below(3)*d.below(3); k > 0; k-- {
+			bytes = append(bytes, byte(d.below(256)>>uint(d.below(8))))
+		}
+		all = append(all, sealed(bytes...))
+	}
+	return append(all, "\x02\x01\x02\x04\x02\x02\x37", "\x03\x00\x0a")
+}
+
+// P1 for the calls on texts.
+func TestP1AnyText(t *testing.T) {
+	all := wildTexts()
+	for _, s := range all {
+		n, b, e := lattice.Decode(s)
+		if e != api.OK && (e != api.ErrText || n != 0 || b != nil) {
+			t.Errorf("P1: Decode(%.40q) = %d, %v, %d", s, n, b, e)
+		}
+		for _, u := range all {
+			m, _, f := lattice.Decode(u)
+			none := e != api.OK || f != api.OK
+			j, g := lattice.Join(s, u)
+			if (g == api.ErrText) != none || (g == api.ErrWidth) != (!none && n != m) || (j == "") != (g != api.OK) {
+				t.Errorf("P8: Join(%.40q, %.40q) = %q, %d", s, u, j, g)
+			}
+			y, h := lattice.Within(s, u)
+			if (h == api.ErrText) != none || (h == api.ErrWidth) != (!none && n != m) || h != api.OK && y {
+				t.Errorf("P8: Within(%.40q, %.40q) = %v, %d", s, u, y, h)
 			}
 		}
 	}

@@ -120,6 +120,26 @@ func (s Span) Has(v Vector) bool {
 	return true
 }
 
+// Join tells the lattice that s and t generate together. Both fit: so the rows
+// of t are such as With takes.
+func (s Span) Join(t Span) Span {
+	for c := 0; c < len(t.rows); c++ {
+		s = s.With(t.rows[c])
+	}
+	return s
+}
+
+// Within tells whether each vector of s is in t: just if each row is, since t
+// is closed under sums of multiples.
+func (s Span) Within(t Span) bool {
+	for c := 0; c < len(s.rows); c++ {
+		if !t.Has(s.rows[c]) {
+			return false
+		}
+	}
+	return true
+}
+
 // Index needs no look at how many rows there are: where a row is missing, 0
 // stands in the place of its pivot, and the product is 0.
 func (s Span) Index(n int) int {

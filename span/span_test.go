@@ -256,3 +256,29 @@ func TestRowsAndVectors(t *testing.T) {
 		t.Errorf("Rows(-1) = %v", got)
 	}
 }
+
+func TestJoinAndWithin(t *testing.T) {
+	whole := spanOf(Vector{1}, Vector{0, 1}, Vector{0, 0, 1})
+	all := []Span{
+		{}, whole,
+		spanOf(Vector{2, 1, 0}, Vector{0, 3, 1}, Vector{0, 0, 5}),
+		spanOf(Vector{2, 1, 0}), spanOf(Vector{0, 3, 1}), spanOf(Vector{0, 0, 5}), spanOf(Vector{0, 6, 2}, Vector{0, 0, 5}),
+		spanOf(Vector{511, 510}), spanOf(Vector{510, 511}), spanOf(Vector{511, -511, 511}),
+	}
+	for _, a := range all {
+		for _, b := range all {
+			var rows []Vector
+			rows = append(rows, a.rows[:]...)
+			rows = append(rows, b.rows[:]...)
+			sum := a.Join(b)
+			checkCanonical(t, sum)
+			checkGenerated(t, sum, rows)
+			if other := b.Join(a); other != sum {
+				t.Errorf("%v and %v make %v, the other way round %v", a, b, sum, other)
+			}
+			if a.Within(b) != (sum == b) {
+				t.Errorf("%v within %v is %v, and together they are %v", a, b, a.Within(b), sum)
+			}
+		}
+	}
+}
