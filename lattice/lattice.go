@@ -4,6 +4,7 @@ package lattice
 import (
 	"lattice/api"
 	"lattice/span"
+	"lattice/store"
 	"lattice/text"
 )
 
@@ -22,7 +23,7 @@ func Has(n int, rows [][]int, v []int) (bool, api.Errno) {
 		return false, api.ErrWidth
 	}
 	// Ahead of the lattice, since ErrVector is named ahead of ErrBound.
-	if !isVector(n, v) {
+	if !isVector(n, v, api.MaxBasis) {
 		return false, api.ErrVector
 	}
 	s, e := generated(n, rows)
@@ -83,16 +84,53 @@ func Within(s string, t string) (bool, api.Errno) {
 }
 
 // Node keeps a lattice on a disk.
-type Node struct{}
+type Node struct {
+	width int
+	held  span.Span
+	free  store.Slot // the slot of the disk that the next lattice goes into
+}
 
-// Open begins a node over a disk (P9, P12).
-func Open(n int, disk []string) (*Node, []api.Write, api.Errno) { return nil, nil, api.OK }
+// Open begins a node over a disk (P9, P12). It has nothing to write: the disk is
+// left as it is until the lattice grows.
+func Open(n int, disk []string) (*Node, []api.Write, api.Errno) {
+	if !isWidth(n) {
+		return nil, nil, api.ErrWidth
+	}
+	kept, free, ok := store.Load(disk)
+	if !ok {
+		return nil, nil, api.ErrDisk
+	}
+	held, alsoOk := spanKept(n, kept)
+	if !alsoOk {
+		return nil, nil, api.ErrDisk
+	}
+	return &Node{width: n, held: held, free: free}, nil, api.OK
+}
 
 // Show tells the text of the node's lattice (P9).
-func (x *Node) Show() string { return "" }
+func (x *Node) Show() string {
+	return text.Of(x.width, x.held)
+}
 
 // Add adds a vector (P10).
-func (x *Node) Add(v []int) ([]api.Write, api.Errno) { return nil, api.OK }
+func (x *Node) Add(v []int) ([]api.Write, api.Errno) {
+	if !isVector(x.width, v, api.MaxEntry) {
+		return nil, api.ErrVector
+	}
+	w := span.VectorOf(v)
+	sum := x.held.With(w)
+	return x.grow(sum)
+}
 
 // Receive takes in what another node showed (P11).
-func (x *Node) Receive(s string) ([]api.Write, api.Errno) { return nil, api.OK }
+func (x *Node) Receive(s string) ([]api.Write, api.Errno) {
+	n, other, ok := text.Read(s)
+	if !ok {
+		return nil, api.ErrText
+	}
+	if n != x.width {
+		return nil, api.ErrWidth
+	}
+	sum := x.held.Join(other)
+	return x.grow(sum)
+}

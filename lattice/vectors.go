@@ -26,7 +26,7 @@ func checkRows(n int, rows [][]int) api.Errno {
 		return api.ErrVector
 	}
 	for i := 0; i < len(rows); i++ {
-		if !isVector(n, rows[i]) {
+		if !isVector(n, rows[i], api.MaxBasis) {
 			return api.ErrVector
 		}
 	}
@@ -37,12 +37,14 @@ func isWidth(n int) bool {
 	return n >= 1 && n <= api.MaxWidth
 }
 
-func isVector(n int, v []int) bool {
+// isVector tells whether v is a vector of width n with no entry greater than
+// most or below -most.
+func isVector(n int, v []int, most int) bool {
 	if len(v) != n {
 		return false
 	}
 	for i := 0; i < len(v); i++ {
-		if v[i] > api.MaxBasis || v[i] < -api.MaxBasis {
+		if v[i] > most || v[i] < -most {
 			return false
 		}
 	}

@@ -118,3 +118,26 @@ func hasError(n int, v []int, e api.Errno) api.Errno {
 	}
 	return e
 }
+
+// P1 for the calls on nodes: the errors themselves are held against the
+// document's words by add and receive.
+func TestP1AnyNode(t *testing.T) {
+	vectors := [][]int{nil, {}, {0}, {1}, {greatest}, {least}, {0, 0}, {1, 2}, {least, greatest}, {0, 0, 0}, {1, 2, 3}, {greatest, least, 0}, {0, 0, 0, 0}, make([]int, 100000)}
+	for n := 1; n <= 3; n++ {
+		h := heldOver(t, n, blank(), nil)
+		for _, v := range vectors {
+			h.add(t, v)
+		}
+		for _, s := range wildTexts() {
+			h.receive(t, s)
+		}
+	}
+	for _, n := range []int{least, -1, 0, 1, 2, 3, 4, greatest} {
+		for _, disk := range wrongDisks() {
+			x, w, e := lattice.Open(n, disk)
+			if x != nil || w != nil || e == api.OK {
+				t.Errorf("P1: Open(%d, %d blocks) = %v, %v, %d", n, len(disk), x, w, e)
+			}
+		}
+	}
+}
