@@ -39,6 +39,14 @@ type held struct {
 	x     *lattice.Node
 	disk  []string
 	basis table
+	last  lastCall
+}
+
+// lastCall is what there was ahead of the last call, and its writes.
+type lastCall struct {
+	disk   []string
+	basis  table
+	writes []api.Write
 }
 
 func heldOver(t *testing.T, n int, disk []string, basis table) *held {
@@ -48,7 +56,7 @@ func heldOver(t *testing.T, n int, disk []string, basis table) *held {
 		t.Fatalf("P9: Open(%d, %q) = %v, %d", n, disk, x, e)
 	}
 	checkWrites(t, "Open", w)
-	h := &held{n, x, behind(disk, w), basis}
+	h := &held{n, x, behind(disk, w), basis, lastCall{disk, basis, w}}
 	h.checkShow(t, "Open")
 	return h
 }
@@ -142,6 +150,7 @@ func (h *held) check(t *testing.T, what string, want table, wantE api.Errno, wri
 		t.Fatalf("P10: %s has %d writes, from %v to %v", what, len(writes), h.basis, want)
 	}
 	checkWrites(t, what, writes)
+	h.last = lastCall{h.disk, h.basis, writes}
 	h.disk = behind(h.disk, writes)
 	h.basis = want
 	h.checkShow(t, what)

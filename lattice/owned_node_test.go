@@ -41,11 +41,12 @@ func sameDisk(a, b []string) bool {
 	return true
 }
 
-// nodeDisks are a blank disk, some that a node of width n left, and such as are
-// wrong.
+// nodeDisks are a blank disk, some that a node of width n left, with all of the
+// last call's writes and with some, and such as are wrong.
 func nodeDisks(t *testing.T, n int) [][]string {
 	t.Helper()
-	return append(append(usedDisks(t, n), blank(), blank()[:7]), wrongDisks()[:12]...)
+	left := append(usedDisks(t, n), cutDisks(t, n)...)
+	return append(append(left, blank(), blank()[:7]), wrongDisks()[:12]...)
 }
 
 func TestP2DiskIsNotWrittenIntoNorKept(t *testing.T) {
@@ -68,6 +69,9 @@ func TestP2DiskIsNotWrittenIntoNorKept(t *testing.T) {
 			a, _, _ := lattice.Open(n, room)
 			b, _, _ := lattice.Open(n, disk)
 			scribbleDisk(room)
+			if a.Show() != b.Show() {
+				t.Errorf("P2: behind what was written into the disk's list a node shows %q, not %q", a.Show(), b.Show())
+			}
 			for _, v := range [][]int{{4, 2, -2}, {-1, 3, 3}, {0, 0, 1}} {
 				checkTwins(t, handed(a, true, v[:n], ""), handed(b, true, v[:n], ""))
 			}
